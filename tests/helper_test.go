@@ -1,0 +1,104 @@
+package tests
+
+import (
+	"slices"
+	"testing"
+)
+
+// filler marks the memory behind a slice's end; no function may read or change it.
+const filler = -77
+
+// withSpare returns a copy of p with spare capacity that holds the filler.
+func withSpare(p []int64) []int64 {
+	long := make([]int64, len(p)+3)
+	for i := copy(long, p); i < len(long); i++ {
+		long[i] = filler
+	}
+	return long[:len(p)]
+}
+
+// overwrite changes every element of p, up to its capacity.
+func overwrite(p []int64) {
+	full := p[:cap(p)]
+	for i := range full {
+		full[i] = -99
+	}
+}
+
+// requireUnchanged fails if p differs from want, of which withSpare made it, or the filler behind p
+// is gone.
+func requireUnchanged(t *testing.T, what string, p []int64, want []int64) {
+	t.Helper()
+	if !slices.Equal(p, want) {
+		t.Errorf("%s changed its argument %v to %v", what, want, p)
+	}
+	for _, x := range p[len(p):cap(p)] {
+		if x != filler {
+			t.Errorf("%s changed memory beyond the end of its argument %v", what, want)
+		}
+	}
+}
+
+// permutationsOf returns all permutations of degree n in lexicographic order.
+func permutationsOf(n int) [][]int64 {
+	var all [][]int64
+	var extend func(prefix []int64)
+	extend = func(prefix []int64) {
+		if len(prefix) == n {
+			all = append(all, slices.Clone(prefix))
+			return
+		}
+		for x := range int64(n) {
+			if !slices.Contains(prefix, x) {
+				extend(append(slices.Clone(prefix), x))
+			}
+		}
+	}
+	extend(nil)
+	return all
+}
+
+// identityOf returns 0, ..., n-1, for any n.
+func identityOf(n int) []int64 {
+	p := make([]int64, n)
+	for i := range p {
+		p[i] = int64(i)
+	}
+	return p
+}
+
+// shiftOf returns the permutation of degree n that moves each point i to i+k modulo n.
+func shiftOf(n int, k int) []int64 {
+	p := make([]int64, n)
+	for i := range p {
+		p[i] = int64((i + k) % n)
+	}
+	return p
+}
+
+// notPermutations returns slices that no function may accept as a permutation.
+func notPermutations() [][]int64 {
+	repeated := shiftOf(20, 3)
+	repeated[19] = repeated[0]
+	return [][]int64{
+		nil,
+		{},
+		{1},
+		{-1},
+		{20},
+		{0, 0},
+		{1, 1},
+		{0, 2},
+		{1, 2, 3},
+		{0, 1, 3},
+		{0, -1, 2},
+		{2, 0, 2},
+		{0, 1 << 32},
+		{-9223372036854775808, 0},
+		{0, 9223372036854775807},
+		repeated,
+		identityOf(21),
+		shiftOf(21, 1),
+		identityOf(64),
+	}
+}
