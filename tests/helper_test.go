@@ -39,6 +39,36 @@ func requireUnchanged(t *testing.T, what string, p []int64, want []int64) {
 	}
 }
 
+// requireApart overwrites each of the named slices, up to its capacity, with a number of its own, and
+// fails if one of them then has a number of another.
+func requireApart(t *testing.T, what string, slicesByName map[string][]int64) {
+	t.Helper()
+	numbers := map[string]int64{}
+	for name, p := range slicesByName {
+		numbers[name] = -100 - int64(len(numbers))
+		for i := range p[:cap(p)] {
+			p[:cap(p)][i] = numbers[name]
+		}
+	}
+	for name, p := range slicesByName {
+		for _, x := range p[:cap(p)] {
+			if x != numbers[name] {
+				t.Fatalf("%s: %s shares memory with another result", what, name)
+			}
+		}
+	}
+}
+
+// requireEqualResults fails if a slice differs from the one of the same name that is wanted.
+func requireEqualResults(t *testing.T, what string, got map[string][]int64, want map[string][]int64) {
+	t.Helper()
+	for name, p := range want {
+		if !slices.Equal(got[name], p) {
+			t.Errorf("%s: %s is %v, want %v", what, name, got[name], p)
+		}
+	}
+}
+
 // permutationsOf returns all permutations of degree n in lexicographic order.
 func permutationsOf(n int) [][]int64 {
 	var all [][]int64
