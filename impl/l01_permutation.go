@@ -31,10 +31,7 @@ func (p permutation) power(k int64) permutation {
 	result := make(permutation, len(p))
 	for _, cycle := range p.allCycles() {
 		length := int64(len(cycle))
-		shift := k % length
-		if shift < 0 {
-			shift += length
-		}
+		shift := modulo(k, length)
 		for i, x := range cycle {
 			result[x] = cycle[(int64(i)+shift)%length]
 		}
@@ -85,6 +82,15 @@ func pointsWhere(n int, holds func(x int64) bool) []int64 {
 // areOfEqualDegree reports whether p and q are permutations of the same degree.
 func areOfEqualDegree(p []int64, q []int64) bool {
 	return len(p) == len(q) && IsPermutation(p) && IsPermutation(q)
+}
+
+// modulo returns what k leaves modulo m, in the range 0 to m-1; m is greater than 0.
+func modulo(k int64, m int64) int64 {
+	rest := k % m
+	if rest < 0 {
+		rest += m
+	}
+	return rest
 }
 
 func greatestCommonDivisor(a int64, b int64) int64 {

@@ -1,6 +1,7 @@
 package tests
 
 import (
+	"fmt"
 	"slices"
 	"testing"
 )
@@ -130,5 +131,41 @@ func notPermutations() [][]int64 {
 		identityOf(21),
 		shiftOf(21, 1),
 		identityOf(64),
+	}
+}
+
+// requireNewMemory fails if what resultsOf returns for some generators and a permutation shares memory
+// with these or within itself, or if they have been changed.
+func requireNewMemory(t *testing.T, chapter string, resultsOf func(g generated, p []int64) map[string][]int64) {
+	t.Helper()
+	all := append(smallGroups(), largeGroups()...)
+	for _, group := range namedGroups() {
+		all = append(all, group.g)
+	}
+	for _, g := range all {
+		p := identityOf(int(g.n))
+		if len(g.gens) > 0 {
+			p = g.gens[len(g.gens)-1]
+		}
+		keptGens, kept := withSpareGenerators(g), withSpare(p)
+		want := resultsOf(g, p)
+		results := resultsOf(keptGens, kept)
+		requireGeneratorsUnchanged(t, "a function of "+chapter, keptGens, g)
+		requireUnchanged(t, "a function of "+chapter, kept, p)
+		requireEqualResults(t, fmt.Sprint("a second call with ", g), results, want)
+		requireApart(t, fmt.Sprint(chapter, " with ", g), results)
+		requireGeneratorsUnchanged(t, "a write to a result", keptGens, g)
+		requireUnchanged(t, "a write to a result", kept, p)
+		results = resultsOf(keptGens, kept)
+		overwrite(kept)
+		for _, gen := range keptGens.gens {
+			overwrite(gen)
+		}
+		requireEqualResults(t, fmt.Sprint("after a write to the arguments of ", g), results, want)
+	}
+	for _, g := range notGenerated() {
+		kept := withSpareGenerators(g)
+		resultsOf(kept, identityOf(5))
+		requireGeneratorsUnchanged(t, "a function of "+chapter, kept, g)
 	}
 }

@@ -275,19 +275,25 @@ func TestTextsAtTheLimit(t *testing.T) {
 	}
 }
 
+// cycleTypeOf returns the cycle lengths of p in descending order, without the functions under test.
+func cycleTypeOf(p []int64) []int64 {
+	// Each cycle's length comes once for each of its points; the fixed points come once.
+	count := map[int64]int64{}
+	for _, length := range cycleLengths(p) {
+		count[length]++
+	}
+	var cycleType []int64
+	for length := int64(len(p)); length >= 1; length-- {
+		for range count[length] / length {
+			cycleType = append(cycleType, length)
+		}
+	}
+	return cycleType
+}
+
 func TestCycleTypeListsAllLengths(t *testing.T) {
 	for _, p := range samplePermutations() {
-		// Each cycle's length comes once for each of its points; the fixed points come once.
-		count := map[int64]int64{}
-		for _, length := range cycleLengths(p) {
-			count[length]++
-		}
-		var want []int64
-		for length := int64(len(p)); length >= 1; length-- {
-			for range count[length] / length {
-				want = append(want, length)
-			}
-		}
+		want := cycleTypeOf(p)
 		if got := impl.CycleType(p); !slices.Equal(got, want) {
 			t.Errorf("CycleType(%v) = %v, want %v", p, got, want)
 		}

@@ -688,36 +688,7 @@ func chainResults(g generated, p []int64) map[string][]int64 {
 }
 
 func TestChainResultsAreNewMemory(t *testing.T) {
-	all := append(smallGroups(), largeGroups()...)
-	for _, group := range namedGroups() {
-		all = append(all, group.g)
-	}
-	for _, g := range all {
-		p := identityOf(int(g.n))
-		if len(g.gens) > 0 {
-			p = g.gens[len(g.gens)-1]
-		}
-		keptGens, kept := withSpareGenerators(g), withSpare(p)
-		want := chainResults(g, p)
-		results := chainResults(keptGens, kept)
-		requireGeneratorsUnchanged(t, "a function of chapter 4", keptGens, g)
-		requireUnchanged(t, "a function of chapter 4", kept, p)
-		requireEqualResults(t, fmt.Sprint("a second call with ", g), results, want)
-		requireApart(t, fmt.Sprint("chapter 4 with ", g), results)
-		requireGeneratorsUnchanged(t, "a write to a result", keptGens, g)
-		requireUnchanged(t, "a write to a result", kept, p)
-		results = chainResults(keptGens, kept)
-		overwrite(kept)
-		for _, gen := range keptGens.gens {
-			overwrite(gen)
-		}
-		requireEqualResults(t, fmt.Sprint("after a write to the arguments of ", g), results, want)
-	}
-	for _, g := range notGenerated() {
-		kept := withSpareGenerators(g)
-		chainResults(kept, identityOf(5))
-		requireGeneratorsUnchanged(t, "a function of chapter 4", kept, g)
-	}
+	requireNewMemory(t, "chapter 4", chainResults)
 }
 
 // TestStabilizerOrderKeepsItsPoints has room behind the points for all points that are left.
