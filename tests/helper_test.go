@@ -134,15 +134,20 @@ func notPermutations() [][]int64 {
 	}
 }
 
-// requireNewMemory fails if what resultsOf returns for some generators and a permutation shares memory
-// with these or within itself, or if they have been changed.
-func requireNewMemory(t *testing.T, chapter string, resultsOf func(g generated, p []int64) map[string][]int64) {
-	t.Helper()
+// allGroups returns the small, the large and the named groups.
+func allGroups() []generated {
 	all := append(smallGroups(), largeGroups()...)
 	for _, group := range namedGroups() {
 		all = append(all, group.g)
 	}
-	for _, g := range all {
+	return all
+}
+
+// requireNewMemory fails if what resultsOf returns for some generators and a permutation shares memory
+// with these or within itself, or if they have been changed.
+func requireNewMemory(t *testing.T, chapter string, resultsOf func(g generated, p []int64) map[string][]int64) {
+	t.Helper()
+	for _, g := range allGroups() {
 		p := identityOf(int(g.n))
 		if len(g.gens) > 0 {
 			p = g.gens[len(g.gens)-1]

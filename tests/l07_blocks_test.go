@@ -991,11 +991,7 @@ func TestBlockResultsAreNewMemory(t *testing.T) {
 
 // TestBlockFunctionsKeepTheirPartitions has block systems, other partitions and no partitions.
 func TestBlockFunctionsKeepTheirPartitions(t *testing.T) {
-	all := append(smallGroups(), largeGroups()...)
-	for _, group := range namedGroups() {
-		all = append(all, group.g)
-	}
-	for _, g := range all {
+	for _, g := range allGroups() {
 		n := int(g.n)
 		lists := [][][]int64{singlesOf(n), wholeOf(n), mergedBlocks(g.n, [][]int64{{0, g.n - 1}}, g.gens), neighboursOf(n, 3), {{0}, {0}}, singlesOf(n + 1), {rest(n, []int64{0}), {0}}}
 		for _, blocks := range lists {
